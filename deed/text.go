@@ -1,12 +1,11 @@
 package deed
 
 import (
-	"strings"
-
 	"furlong/api"
 	"furlong/desc"
 	"furlong/knot"
 	"furlong/session"
+	"furlong/strand"
 )
 
 const (
@@ -31,7 +30,8 @@ func Put(p api.Plot) string {
 
 // Parse is the plot that may be, and whose text s is.
 func Parse(s string) (api.Plot, api.Errno) {
-	parts := strands(s)
+	// Pairs may be so many, and so long, that Untie would not take them.
+	parts, _ := strand.All(s)
 	if len(parts) != plotStrands {
 		return api.Plot{}, api.ErrDeed
 	}
@@ -69,7 +69,7 @@ func pairsText(l []api.Pair) string {
 
 // readPairs is the pairs whose text s is, as far as they are whole.
 func readPairs(s string) []api.Pair {
-	parts := strands(s)
+	parts, _ := strand.All(s)
 	var l []api.Pair
 	for i := range len(parts) / pairStrands {
 		at := i * pairStrands
@@ -87,28 +87,14 @@ func eatenText(l []int64) string {
 	return knot.Tie(parts...)
 }
 
-// readEaten is the numbers of ranges whose text s is, as far as it goes.
+// readEaten is the numbers of ranges whose text s may be.
 func readEaten(s string) []int64 {
+	parts, _ := strand.All(s)
 	var l []int64
-	for _, text := range strands(s) {
+	for _, text := range parts {
 		l = append(l, number(text))
 	}
 	return l
-}
-
-// strands is the texts whose strands s has, up to where there is none: a plot's
-// pairs may be more, and longer, than those of a knot that Untie takes.
-func strands(s string) []string {
-	var l []string
-	for {
-		digits, behind, _ := strings.Cut(s, ":")
-		n, e := knot.Int(digits)
-		if e != api.OK || n < 0 || n >= int64(len(behind)) {
-			return l
-		}
-		l = append(l, behind[:n])
-		s = behind[n+1:]
-	}
 }
 
 // number is the number whose text this is. If it is none's, it is 0, whose text

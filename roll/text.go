@@ -2,10 +2,10 @@ package roll
 
 import (
 	"slices"
-	"strings"
 
 	"furlong/api"
 	"furlong/knot"
+	"furlong/strand"
 )
 
 const (
@@ -25,7 +25,8 @@ func Put(r api.Roll) string {
 
 // Parse is the roll that may be, and whose text s is.
 func Parse(s string) (api.Roll, api.Errno) {
-	parts, whole := strands(s)
+	// Entries may be so many, and so long, that Untie would not take them.
+	parts, whole := strand.All(s)
 	if !whole || len(parts) < baseStrands || (len(parts)-baseStrands)%entryStrands != 0 {
 		return api.Roll{}, api.ErrRoll
 	}
@@ -37,22 +38,6 @@ func Parse(s string) (api.Roll, api.Errno) {
 		return api.Roll{}, api.ErrRoll
 	}
 	return r, api.OK
-}
-
-// strands is the texts whose strands s is, and true; false, if it is none's. A
-// roll's entries may be more, and longer, than those of a knot that Untie takes.
-func strands(s string) ([]string, bool) {
-	var l []string
-	for s != "" {
-		digits, behind, _ := strings.Cut(s, ":")
-		n, e := knot.Int(digits)
-		if e != api.OK || n < 0 || n >= int64(len(behind)) || behind[n] != ',' {
-			return nil, false
-		}
-		l = append(l, behind[:n])
-		s = behind[n+1:]
-	}
-	return l, true
 }
 
 // number is the number whose text this is. If it is none's, it is -1, which no
